@@ -1,0 +1,274 @@
+// Package promises: tests of P1 to P3, which hold for all packages alike.
+package promises
+
+import (
+	"fmt"
+	"testing"
+
+	"superpose/api"
+	"superpose/term"
+	"superpose/text"
+)
+
+func v(n int) api.Term { return api.Term{Var: n} }
+
+// f has spare room behind its arguments, with something in it that nobody may touch.
+func f(n int, args ...api.Term) api.Term {
+	roomy := append(append([]api.Term{}, args...), v(501), v(502))
+	return api.Term{Fn: n, Args: roomy[:len(args)]}
+}
+
+// given: all that is handed to a call.
+type given struct {
+	g     api.Signature
+	t, u  api.Term
+	place []int
+	c     api.Clause
+	s     string
+}
+
+func signature() api.Signature {
+	arity := []int{0, 0, 1, 2, 3, 99, 98}
+	return api.Signature{Arity: arity[:5]}
+}
+
+// right: what calls take.
+func right() given {
+	shared := f(2, v(3))
+	clause := api.Clause{{Yes: true, A: f(3, shared, shared), B: shared}, {A: f(0), B: v(2)}, {A: v(601)}}
+	place := []int{1, 0, 77, 78}
+	return given{signature(), f(3, f(0), f(2, f(4, shared, v(1), shared))), f(3, shared, shared), place[:2], clause[:2], "f2(X1) = f3(X2,f0) | f0 != f4(X1,f1,f2(X2))"}
+}
+
+// wrong: what none of them takes, of all sorts; terms that hold themselves among them.
+func wrong() []given {
+	loop := make([]api.Term, 2)
+	loop[0], loop[1] = v(1), api.Term{Fn: 3, Args: loop}
+	deep, wide := f(0), make([]api.Term, 1<<18)
+	for range 60000 {
+		deep = api.Term{Fn: 2, Args: []api.Term{deep}}
+	}
+	var l []given
+	for _, x := range []api.Term{loop[1], deep, {Args: wide}, {Var: 1, Args: wide}, {Var: -1 << 63, Fn: 1<<63 - 1}, {Fn: -1 << 63}, {Fn: 1<<63 - 1}, f(2), f(0, f(0)), v(1001)} {
+		l = append(l, given{signature(), x, x, nil, api.Clause{{A: x, B: x}}, "f9 = f9"})
+		l = append(l, given{signature(), x, v(1), []int{-1 << 63}, api.Clause{{Yes: true, A: v(1), B: x}}, "\xff"})
+	}
+	for _, g := range []api.Signature{{Arity: []int{4}}, {Arity: []int{-1 << 63}}, {Arity: make([]int, 1<<18)}} {
+		x := right()
+		x.g = g
+		l = append(l, x)
+	}
+	return l
+}
+
+// call: a call of the program: the lists that it answers, all of it as a text, whether all but the error is zero, and the error.
+type call struct {
+	name string
+	do   func(x given) (lists []any, told string, zero bool, e api.Errno)
+}
+
+func zeroTerm(t api.Term) bool { return t.Var == 0 && t.Fn == 0 && len(t.Args) == 0 }
+
+func calls() []call {
+	return []call{
+		{"term.Signature", func(x given) ([]any, string, bool, api.Errno) {
+			return nil, "", true, term.Signature(x.g)
+		}},
+		{"term.Check", func(x given) ([]any, string, bool, api.Errno) {
+			return nil, "", true, term.Check(x.g, x.t)
+		}},
+		{"term.Size", func(x given) ([]any, string, bool, api.Errno) {
+			n, e := term.Size(x.g, x.t)
+			return nil, fmt.Sprint(n), n == 0, e
+		}},
+		{"term.Vars", func(x given) ([]any, string, bool, api.Errno) {
+			l, e := term.Vars(x.g, x.t)
+			return []any{l}, fmt.Sprint(l), len(l) == 0, e
+		}},
+		{"term.At", func(x given) ([]any, string, bool, api.Errno) {
+			y, e := term.At(x.g, x.t, x.place)
+			return []any{y}, fmt.Sprint(y), zeroTerm(y), e
+		}},
+		{"term.Put", func(x given) ([]any, string, bool, api.Errno) {
+			y, e := term.Put(x.g, x.t, x.place, x.u)
+			return []any{y}, fmt.Sprint(y), zeroTerm(y), e
+		}},
+		{"term.Put at none", func(x given) ([]any, string, bool, api.Errno) {
+			y, e := term.Put(x.g, x.t, nil, x.u)
+			return []any{y}, fmt.Sprint(y), zeroTerm(y), e
+		}},
+		{"text.Term", func(x given) ([]any, string, bool, api.Errno) {
+			s, e := text.Term(x.g, x.t)
+			return nil, s, s == "", e
+		}},
+		{"text.Clause", func(x given) ([]any, string, bool, api.Errno) {
+			s, e := text.Clause(x.g, x.c)
+			return nil, s, s == "", e
+		}},
+		{"text.ParseTerm", func(x given) ([]any, string, bool, api.Errno) {
+			s, _ := text.Term(x.g, x.t)
+			y, e := text.ParseTerm(x.g, s)
+			return []any{y}, fmt.Sprint(y), zeroTerm(y), e
+		}},
+		{"text.ParseClause", func(x given) ([]any, string, bool, api.Errno) {
+			c, e := text.ParseClause(x.g, x.s)
+			return []any{c}, fmt.Sprint(c), len(c) == 0, e
+		}},
+	}
+}
+
+func TestP1EndsWithoutPanicAndZero(t *testing.T) {
+	for i, x := range wrong() {
+		for _, c := range calls() {
+			_, _, zero, e := c.do(x)
+			if e != api.OK && !zero {
+				t.Errorf("%s %d: something with error %d", c.name, i, e)
+			}
+			if e == api.OK && c.name != "term.Signature" {
+				t.Errorf("%s %d: no error", c.name, i)
+			}
+		}
+	}
+}
+
+// shown: all of what is handed in, the room behind lists, too.
+func shown(x given) string {
+	s := fmt.Sprint(x.g.Arity[:cap(x.g.Arity)], x.place[:cap(x.place)], x.s)
+	s += room(x.t) + room(x.u)
+	for _, l := range x.c[:cap(x.c)] {
+		s += fmt.Sprint(l.Yes) + room(l.A) + room(l.B)
+	}
+	return s
+}
+
+func room(t api.Term) string {
+	s := fmt.Sprint("(", t.Var, t.Fn, len(t.Args))
+	for _, a := range t.Args[:cap(t.Args)] {
+		s += room(a)
+	}
+	return s + ")"
+}
+
+func TestP2OnlyRead(t *testing.T) {
+	for _, c := range calls() {
+		x := right()
+		was := shown(x)
+		if _, _, _, e := c.do(x); e != api.OK {
+			t.Errorf("%s: %d", c.name, e)
+		}
+		if shown(x) != was {
+			t.Errorf("%s: changed what was handed in", c.name)
+		}
+	}
+}
+
+// spots: where the elements of all lists of a thing lie, each as often as a list has it.
+func spots(x any, at func(spot any)) {
+	switch y := x.(type) {
+	case []int:
+		for i := range y[:cap(y)] {
+			at(&y[:cap(y)][i])
+		}
+	case api.Term:
+		for i := range y.Args[:cap(y.Args)] {
+			at(&y.Args[:cap(y.Args)][i])
+		}
+		for _, a := range y.Args {
+			spots(a, at)
+		}
+	case api.Clause:
+		for i := range y[:cap(y)] {
+			at(&y[:cap(y)][i])
+		}
+		for _, l := range y {
+			spots(l.A, at)
+			spots(l.B, at)
+		}
+	}
+}
+
+func TestP2NewMemory(t *testing.T) {
+	for _, c := range calls() {
+		x := right()
+		lists, _, _, _ := c.do(x)
+		seen := map[any]int{}
+		for _, y := range []any{x.g.Arity, x.t, x.u, x.place, x.c} {
+			spots(y, func(spot any) { seen[spot] = 1 })
+		}
+		for _, y := range lists {
+			spots(y, func(spot any) {
+				if seen[spot] != 0 {
+					t.Errorf("%s: memory of an argument, or of two lists", c.name)
+				}
+				seen[spot] = 2
+			})
+		}
+	}
+}
+
+// spoil all that lists hold, the inner ones too: so all are found ahead of the first change.
+func spoil(x any) {
+	var found []any
+	spots(x, func(spot any) { found = append(found, spot) })
+	for _, spot := range found {
+		switch y := spot.(type) {
+		case *int:
+			*y = 1234
+		case *api.Term:
+			*y = v(4321)
+		case *api.Literal:
+			*y = api.Literal{A: v(4321)}
+		}
+	}
+}
+
+func TestP2NotKept(t *testing.T) {
+	for _, c := range calls() {
+		x := right()
+		lists, told, _, _ := c.do(x)
+		for _, y := range []any{x.g.Arity, x.place, x.c, x.t, x.u} {
+			spoil(y)
+		}
+		if len(lists) > 0 && fmt.Sprint(lists...) != told {
+			t.Errorf("%s: a later change is seen in the answer", c.name)
+		}
+		for _, y := range lists {
+			spoil(y)
+		}
+		if _, again, _, e := c.do(right()); again != told || e != api.OK {
+			t.Errorf("%s: a changed answer is seen later: %s, not %s", c.name, again, told)
+		}
+	}
+}
+
+func TestP2EmptyListsEitherWay(t *testing.T) {
+	none := api.Term{Fn: 1}
+	room := api.Term{Fn: 1, Args: []api.Term{}}
+	x := given{api.Signature{Arity: []int{0, 0}}, none, none, nil, nil, "$false"}
+	y := given{x.g, room, room, []int{}, api.Clause{}, "$false"}
+	for _, c := range calls() {
+		_, a, _, e := c.do(x)
+		_, b, _, h := c.do(y)
+		if a != b || e != h || e != api.OK {
+			t.Errorf("%s: %s %d and %s %d", c.name, a, e, b, h)
+		}
+	}
+	x.g, y.g = api.Signature{}, api.Signature{Arity: []int{}}
+	if term.Check(x.g, v(1)) != api.OK || term.Check(y.g, v(1)) != api.OK || term.Check(x.g, none) != api.ErrNone {
+		t.Error("a signature without functions")
+	}
+}
+
+func TestP3TheSameEachTime(t *testing.T) {
+	for _, c := range calls() {
+		_, told, _, e := c.do(right())
+		for _, x := range wrong() {
+			c.do(x)
+		}
+		for range 20 {
+			if _, again, _, h := c.do(right()); again != told || h != e {
+				t.Errorf("%s: %s %d, then %s %d", c.name, told, e, again, h)
+			}
+		}
+	}
+}
