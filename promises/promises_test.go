@@ -6,6 +6,8 @@ import (
 	"testing"
 
 	"superpose/api"
+	"superpose/order"
+	"superpose/subst"
 	"superpose/term"
 	"superpose/text"
 )
@@ -22,9 +24,11 @@ func f(n int, args ...api.Term) api.Term {
 type given struct {
 	g     api.Signature
 	t, u  api.Term
+	p     api.Term // a pattern, of which t is one
 	place []int
 	c     api.Clause
 	s     string
+	b     []api.Binding
 }
 
 func signature() api.Signature {
@@ -37,7 +41,17 @@ func right() given {
 	shared := f(2, v(3))
 	clause := api.Clause{{Yes: true, A: f(3, shared, shared), B: shared}, {A: f(0), B: v(2)}, {A: v(601)}}
 	place := []int{1, 0, 77, 78}
-	return given{signature(), f(3, f(0), f(2, f(4, shared, v(1), shared))), f(3, shared, shared), place[:2], clause[:2], "f2(X1) = f3(X2,f0) | f0 != f4(X1,f1,f2(X2))"}
+	bindings := []api.Binding{{Var: 1, To: shared}, {Var: 3, To: f(3, shared, v(1))}, {Var: 603, To: v(604)}}
+	return given{
+		g:     signature(),
+		t:     f(3, f(0), f(2, f(4, shared, v(1), shared))),
+		u:     f(3, shared, shared),
+		p:     f(3, v(7), f(2, f(4, v(6), v(5), v(6)))),
+		place: place[:2],
+		c:     clause[:2],
+		s:     "f2(X1) = f3(X2,f0) | f0 != f4(X1,f1,f2(X2))",
+		b:     bindings[:2],
+	}
 }
 
 // wrong: what none of them takes, of all sorts; terms that hold themselves among them.
@@ -50,8 +64,10 @@ func wrong() []given {
 	}
 	var l []given
 	for _, x := range []api.Term{loop[1], deep, {Args: wide}, {Var: 1, Args: wide}, {Var: -1 << 63, Fn: 1<<63 - 1}, {Fn: -1 << 63}, {Fn: 1<<63 - 1}, f(2), f(0, f(0)), v(1001)} {
-		l = append(l, given{signature(), x, x, nil, api.Clause{{A: x, B: x}}, "f9 = f9"})
-		l = append(l, given{signature(), x, v(1), []int{-1 << 63}, api.Clause{{Yes: true, A: v(1), B: x}}, "\xff"})
+		both := given{g: signature(), t: x, u: x, p: x, c: api.Clause{{A: x, B: x}}, s: "f9 = f9", b: []api.Binding{{Var: 1, To: x}}}
+		last := right()
+		last.t, last.place, last.c, last.s, last.b[1].To = x, []int{-1 << 63}, api.Clause{{Yes: true, A: v(1), B: x}}, "\xff", x
+		l = append(l, both, last)
 	}
 	for _, g := range []api.Signature{{Arity: []int{4}}, {Arity: []int{-1 << 63}}, {Arity: make([]int, 1<<18)}} {
 		x := right()
@@ -114,6 +130,26 @@ func calls() []call {
 			c, e := text.ParseClause(x.g, x.s)
 			return []any{c}, fmt.Sprint(c), len(c) == 0, e
 		}},
+		{"subst.Apply", func(x given) ([]any, string, bool, api.Errno) {
+			y, e := subst.Apply(x.g, x.b, x.t)
+			return []any{y}, fmt.Sprint(y), zeroTerm(y), e
+		}},
+		{"subst.Match", func(x given) ([]any, string, bool, api.Errno) {
+			b, ok, e := subst.Match(x.g, x.p, x.t)
+			return []any{b}, fmt.Sprint(b), len(b) == 0 && !ok, e
+		}},
+		{"subst.Unify", func(x given) ([]any, string, bool, api.Errno) {
+			b, ok, e := subst.Unify(x.g, x.p, x.t)
+			return []any{b}, fmt.Sprint(b), len(b) == 0 && !ok, e
+		}},
+		{"order.Greater", func(x given) ([]any, string, bool, api.Errno) {
+			is, e := order.Greater(x.g, x.u, x.t)
+			return nil, fmt.Sprint(is), !is, e
+		}},
+		{"order.Compare", func(x given) ([]any, string, bool, api.Errno) {
+			n, e := order.Compare(x.g, x.u, x.t)
+			return nil, fmt.Sprint(n), n == 0, e
+		}},
 	}
 }
 
@@ -134,7 +170,10 @@ func TestP1EndsWithoutPanicAndZero(t *testing.T) {
 // shown: all of what is handed in, the room behind lists, too.
 func shown(x given) string {
 	s := fmt.Sprint(x.g.Arity[:cap(x.g.Arity)], x.place[:cap(x.place)], x.s)
-	s += room(x.t) + room(x.u)
+	s += room(x.t) + room(x.u) + room(x.p)
+	for _, y := range x.b[:cap(x.b)] {
+		s += fmt.Sprint(y.Var) + room(y.To)
+	}
 	for _, l := range x.c[:cap(x.c)] {
 		s += fmt.Sprint(l.Yes) + room(l.A) + room(l.B)
 	}
@@ -184,15 +223,25 @@ func spots(x any, at func(spot any)) {
 			spots(l.A, at)
 			spots(l.B, at)
 		}
+	case []api.Binding:
+		for i := range y[:cap(y)] {
+			at(&y[:cap(y)][i])
+		}
+		for _, b := range y {
+			spots(b.To, at)
+		}
 	}
 }
+
+// lists: all that was handed in.
+func (x given) lists() []any { return []any{x.g.Arity, x.place, x.c, x.t, x.u, x.p, x.b} }
 
 func TestP2NewMemory(t *testing.T) {
 	for _, c := range calls() {
 		x := right()
 		lists, _, _, _ := c.do(x)
 		seen := map[any]int{}
-		for _, y := range []any{x.g.Arity, x.t, x.u, x.place, x.c} {
+		for _, y := range x.lists() {
 			spots(y, func(spot any) { seen[spot] = 1 })
 		}
 		for _, y := range lists {
@@ -218,6 +267,8 @@ func spoil(x any) {
 			*y = v(4321)
 		case *api.Literal:
 			*y = api.Literal{A: v(4321)}
+		case *api.Binding:
+			*y = api.Binding{Var: 4321, To: v(4321)}
 		}
 	}
 }
@@ -226,7 +277,7 @@ func TestP2NotKept(t *testing.T) {
 	for _, c := range calls() {
 		x := right()
 		lists, told, _, _ := c.do(x)
-		for _, y := range []any{x.g.Arity, x.place, x.c, x.t, x.u} {
+		for _, y := range x.lists() {
 			spoil(y)
 		}
 		if len(lists) > 0 && fmt.Sprint(lists...) != told {
@@ -244,8 +295,8 @@ func TestP2NotKept(t *testing.T) {
 func TestP2EmptyListsEitherWay(t *testing.T) {
 	none := api.Term{Fn: 1}
 	room := api.Term{Fn: 1, Args: []api.Term{}}
-	x := given{api.Signature{Arity: []int{0, 0}}, none, none, nil, nil, "$false"}
-	y := given{x.g, room, room, []int{}, api.Clause{}, "$false"}
+	x := given{g: api.Signature{Arity: []int{0, 0}}, t: none, u: none, p: none, s: "$false"}
+	y := given{g: x.g, t: room, u: room, p: room, place: []int{}, c: api.Clause{}, s: "$false", b: []api.Binding{}}
 	for _, c := range calls() {
 		_, a, _, e := c.do(x)
 		_, b, _, h := c.do(y)

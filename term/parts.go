@@ -1,6 +1,9 @@
 package term
 
-import "superpose/api"
+import (
+	"superpose/api"
+	"superpose/tree"
+)
 
 // look hands each part of the terms to do, behind those that stand in it, from the left, till do says no.
 // It goes down ahead of asking do, so the terms must be known not to hold themselves.
@@ -90,24 +93,11 @@ func find(t api.Term, place []int) (api.Term, bool) {
 
 // put u at a place that is there.
 func put(t api.Term, place []int, u api.Term) api.Term {
-	made := copyOf(t)
+	made := tree.Copy(t)
 	there := &made
 	for _, i := range place {
 		there = &there.Args[i]
 	}
-	*there = copyOf(u)
-	return made
-}
-
-// copyOf is the term in new memory: parts of one handed in may share theirs, those of an answer must not.
-func copyOf(t api.Term) api.Term {
-	made := api.Term{Var: t.Var, Fn: t.Fn}
-	if len(t.Args) == 0 {
-		return made
-	}
-	made.Args = make([]api.Term, len(t.Args))
-	for i, a := range t.Args {
-		made.Args[i] = copyOf(a)
-	}
+	*there = tree.Copy(u)
 	return made
 }

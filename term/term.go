@@ -5,6 +5,7 @@ import (
 	"slices"
 
 	"superpose/api"
+	"superpose/tree"
 )
 
 // Signature: is one right?
@@ -56,7 +57,7 @@ func At(g api.Signature, t api.Term, place []int) (api.Term, api.Errno) {
 	if !ok {
 		return api.Term{}, api.ErrNone
 	}
-	return copyOf(there), api.OK
+	return tree.Copy(there), api.OK
 }
 
 // Put another term at a place.
