@@ -6,7 +6,9 @@ import (
 	"testing"
 
 	"superpose/api"
+	"superpose/clause"
 	"superpose/order"
+	"superpose/rewrite"
 	"superpose/subst"
 	"superpose/term"
 	"superpose/text"
@@ -29,6 +31,9 @@ type given struct {
 	c     api.Clause
 	s     string
 	b     []api.Binding
+	rules []api.Rule   // by which t is made something else
+	d     api.Clause   // which c subsumes
+	l     []api.Clause // clauses
 }
 
 func signature() api.Signature {
@@ -39,7 +44,10 @@ func signature() api.Signature {
 // right: what calls take.
 func right() given {
 	shared := f(2, v(3))
-	clause := api.Clause{{Yes: true, A: f(3, shared, shared), B: shared}, {A: f(0), B: v(2)}, {A: v(601)}}
+	literals := api.Clause{{Yes: true, A: f(3, shared, shared), B: shared}, {A: f(0), B: v(2)}, {A: v(601)}}
+	more := api.Clause{{A: f(1), B: f(0)}, {Yes: true, A: shared, B: shared}, {Yes: true, A: shared, B: f(3, shared, shared)}, {B: v(605)}}
+	list := []api.Clause{literals[:2], more[:3], literals[:1], nil, {{A: v(606)}}}
+	rules := []api.Rule{{From: f(4, v(3), v(1), v(3)), To: f(3, f(3, v(3), v(1)), f(3, v(3), v(1)))}, {From: f(3, shared, v(4)), To: shared}, {From: v(607), To: v(608)}}
 	place := []int{1, 0, 77, 78}
 	bindings := []api.Binding{{Var: 1, To: shared}, {Var: 3, To: f(3, shared, v(1))}, {Var: 603, To: v(604)}}
 	return given{
@@ -48,9 +56,12 @@ func right() given {
 		u:     f(3, shared, shared),
 		p:     f(3, v(7), f(2, f(4, v(6), v(5), v(6)))),
 		place: place[:2],
-		c:     clause[:2],
+		c:     literals[:2],
 		s:     "f2(X1) = f3(X2,f0) | f0 != f4(X1,f1,f2(X2))",
 		b:     bindings[:2],
+		rules: rules[:2],
+		d:     more[:3],
+		l:     list[:4],
 	}
 }
 
@@ -64,9 +75,11 @@ func wrong() []given {
 	}
 	var l []given
 	for _, x := range []api.Term{loop[1], deep, {Args: wide}, {Var: 1, Args: wide}, {Var: -1 << 63, Fn: 1<<63 - 1}, {Fn: -1 << 63}, {Fn: 1<<63 - 1}, f(2), f(0, f(0)), v(1001)} {
-		both := given{g: signature(), t: x, u: x, p: x, c: api.Clause{{A: x, B: x}}, s: "f9 = f9", b: []api.Binding{{Var: 1, To: x}}}
+		both := given{g: signature(), t: x, u: x, p: x, c: api.Clause{{A: x, B: x}}, s: "f9 = f9", b: []api.Binding{{Var: 1, To: x}}, rules: []api.Rule{{From: x, To: x}}}
+		both.d, both.l = both.c, []api.Clause{both.c}
 		last := right()
 		last.t, last.place, last.c, last.s, last.b[1].To = x, []int{-1 << 63}, api.Clause{{Yes: true, A: v(1), B: x}}, "\xff", x
+		last.rules[1].To, last.l[3] = x, last.c
 		l = append(l, both, last)
 	}
 	for _, g := range []api.Signature{{Arity: []int{4}}, {Arity: []int{-1 << 63}}, {Arity: make([]int, 1<<18)}} {
@@ -85,7 +98,10 @@ type call struct {
 
 func zeroTerm(t api.Term) bool { return t.Var == 0 && t.Fn == 0 && len(t.Args) == 0 }
 
-func calls() []call {
+func calls() []call { return append(firstCalls(), laterCalls()...) }
+
+// firstCalls: those of the layers of terms.
+func firstCalls() []call {
 	return []call{
 		{"term.Signature", func(x given) ([]any, string, bool, api.Errno) {
 			return nil, "", true, term.Signature(x.g)
@@ -153,6 +169,50 @@ func calls() []call {
 	}
 }
 
+// laterCalls: those of the layers of rules and clauses.
+func laterCalls() []call {
+	return []call{
+		{"rewrite.Check", func(x given) ([]any, string, bool, api.Errno) {
+			return nil, "", true, rewrite.Check(x.g, x.rules)
+		}},
+		{"rewrite.Step", func(x given) ([]any, string, bool, api.Errno) {
+			y, ok, e := rewrite.Step(x.g, x.rules, x.t)
+			return []any{y}, fmt.Sprint(y), zeroTerm(y) && !ok, e
+		}},
+		{"rewrite.Step of none", func(x given) ([]any, string, bool, api.Errno) {
+			y, ok, e := rewrite.Step(x.g, nil, x.t)
+			return []any{y}, fmt.Sprint(y), zeroTerm(y) && !ok, e
+		}},
+		{"rewrite.Normal", func(x given) ([]any, string, bool, api.Errno) {
+			y, n, e := rewrite.Normal(x.g, x.rules, x.t)
+			return []any{y}, fmt.Sprint(y), zeroTerm(y) && n == 0, e
+		}},
+		{"rewrite.Normal of none", func(x given) ([]any, string, bool, api.Errno) {
+			y, n, e := rewrite.Normal(x.g, nil, x.t)
+			return []any{y}, fmt.Sprint(y), zeroTerm(y) && n == 0, e
+		}},
+		{"clause.Check", func(x given) ([]any, string, bool, api.Errno) {
+			return nil, "", true, clause.Check(x.g, x.l)
+		}},
+		{"clause.Tidy", func(x given) ([]any, string, bool, api.Errno) {
+			c, e := clause.Tidy(x.g, x.c)
+			return []any{c}, fmt.Sprint(c), len(c) == 0, e
+		}},
+		{"clause.Always", func(x given) ([]any, string, bool, api.Errno) {
+			is, e := clause.Always(x.g, x.c)
+			return nil, fmt.Sprint(is), !is, e
+		}},
+		{"clause.Subsumes", func(x given) ([]any, string, bool, api.Errno) {
+			is, e := clause.Subsumes(x.g, x.c, x.d)
+			return nil, fmt.Sprint(is), !is, e
+		}},
+		{"clause.Subsumes turned", func(x given) ([]any, string, bool, api.Errno) {
+			is, e := clause.Subsumes(x.g, x.d, x.c)
+			return nil, fmt.Sprint(is), !is, e
+		}},
+	}
+}
+
 func TestP1EndsWithoutPanicAndZero(t *testing.T) {
 	for i, x := range wrong() {
 		for _, c := range calls() {
@@ -174,8 +234,13 @@ func shown(x given) string {
 	for _, y := range x.b[:cap(x.b)] {
 		s += fmt.Sprint(y.Var) + room(y.To)
 	}
-	for _, l := range x.c[:cap(x.c)] {
-		s += fmt.Sprint(l.Yes) + room(l.A) + room(l.B)
+	for _, r := range x.rules[:cap(x.rules)] {
+		s += room(r.From) + room(r.To)
+	}
+	for _, c := range append([]api.Clause{x.c, x.d}, x.l[:cap(x.l)]...) {
+		for _, l := range c[:cap(c)] {
+			s += fmt.Sprint(l.Yes) + room(l.A) + room(l.B)
+		}
 	}
 	return s
 }
@@ -230,11 +295,28 @@ func spots(x any, at func(spot any)) {
 		for _, b := range y {
 			spots(b.To, at)
 		}
+	case []api.Rule:
+		for i := range y[:cap(y)] {
+			at(&y[:cap(y)][i])
+		}
+		for _, r := range y {
+			spots(r.From, at)
+			spots(r.To, at)
+		}
+	case []api.Clause:
+		for i := range y[:cap(y)] {
+			at(&y[:cap(y)][i])
+		}
+		for _, c := range y {
+			spots(c, at)
+		}
 	}
 }
 
 // lists: all that was handed in.
-func (x given) lists() []any { return []any{x.g.Arity, x.place, x.c, x.t, x.u, x.p, x.b} }
+func (x given) lists() []any {
+	return []any{x.g.Arity, x.place, x.c, x.t, x.u, x.p, x.b, x.rules, x.d, x.l}
+}
 
 func TestP2NewMemory(t *testing.T) {
 	for _, c := range calls() {
@@ -269,6 +351,10 @@ func spoil(x any) {
 			*y = api.Literal{A: v(4321)}
 		case *api.Binding:
 			*y = api.Binding{Var: 4321, To: v(4321)}
+		case *api.Rule:
+			*y = api.Rule{From: v(4321), To: v(4321)}
+		case *api.Clause:
+			*y = api.Clause{{A: v(4321)}}
 		}
 	}
 }
@@ -296,7 +382,7 @@ func TestP2EmptyListsEitherWay(t *testing.T) {
 	none := api.Term{Fn: 1}
 	room := api.Term{Fn: 1, Args: []api.Term{}}
 	x := given{g: api.Signature{Arity: []int{0, 0}}, t: none, u: none, p: none, s: "$false"}
-	y := given{g: x.g, t: room, u: room, p: room, place: []int{}, c: api.Clause{}, s: "$false", b: []api.Binding{}}
+	y := given{g: x.g, t: room, u: room, p: room, place: []int{}, c: api.Clause{}, s: "$false", b: []api.Binding{}, rules: []api.Rule{}, d: api.Clause{}, l: []api.Clause{}}
 	for _, c := range calls() {
 		_, a, _, e := c.do(x)
 		_, b, _, h := c.do(y)
