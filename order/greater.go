@@ -4,7 +4,6 @@ import (
 	"slices"
 
 	"superpose/api"
-	"superpose/tree"
 )
 
 // part of a term, with its number among all of them.
@@ -24,63 +23,77 @@ func numbered(t api.Term, from int) (part, int) {
 	return p, next
 }
 
-// What a table says of two parts.
+// What a part of s is to one of t.
 const (
 	unasked int8 = iota
-	yes
-	no
+	more         // it is greater
+	same
+	neither
 )
 
-// table: what is known of each part of the one term and each of the other one: the same two come up by many ways, and are asked once.
-type table [][]int8
+// table: what is known of each part of s (a row) and each of t (a column): the same two come up by many ways, and are asked once.
+type table struct {
+	known   []int8
+	columns int
+}
 
-// greater asks by D1's words, of terms that are right.
+// greater: is s greater than t? Both are right.
 func greater(s, t api.Term) bool {
 	left, rows := numbered(s, 0)
 	right, columns := numbered(t, 0)
-	known := make(table, rows)
-	for i := range known {
-		known[i] = make([]int8, columns)
-	}
-	return known.greater(left, right)
+	k := table{known: make([]int8, rows*columns), columns: columns}
+	return k.is(left, right) == more
 }
 
-func (k table) greater(s, t part) bool {
-	known := &k[s.number][t.number]
+// is: what s is to t.
+func (k table) is(s, t part) int8 {
+	known := &k.known[s.number*k.columns+t.number]
 	if *known == unasked {
-		*known = no
-		if k.ask(s, t) {
-			*known = yes
-		}
+		*known = k.ask(s, t)
 	}
-	return *known == yes
+	return *known
 }
 
-func (k table) ask(s, t part) bool {
+// ask by D1's words, but for what D3 spares: where s is greater than each argument of t if it is greater than t, it need not be asked whether an argument of s is, too.
+func (k table) ask(s, t part) int8 {
 	switch {
+	case s.Var != 0 && s.Var == t.Var:
+		return same
 	case s.Var != 0:
-		return false
-	case t.Var != 0:
-		return stands(t.Var, s.Term)
-	case slices.ContainsFunc(s.args, func(a part) bool { return tree.Same(a.Term, t.Term) || k.greater(a, t) }):
-		return true
-	case s.Fn < t.Fn || slices.ContainsFunc(t.args, func(a part) bool { return !k.greater(s, a) }):
-		return false
+		return neither
+	case t.Var != 0 || s.Fn < t.Fn:
+		return k.byArgument(s.args, t)
+	case s.Fn > t.Fn:
+		return k.aboveAll(s, t.args)
 	}
-	return s.Fn > t.Fn || k.firstGreater(s, t)
+	return k.askArguments(s, t)
 }
 
-// stands: does a variable stand in a term?
-func stands(v int, t api.Term) bool {
-	return t.Var == v || slices.ContainsFunc(t.Args, func(a api.Term) bool { return stands(v, a) })
+// byArgument: is one of s's arguments t, or greater?
+func (k table) byArgument(args []part, t part) int8 {
+	if slices.ContainsFunc(args, func(a part) bool { return k.is(a, t) != neither }) {
+		return more
+	}
+	return neither
 }
 
-// firstGreater: of the first arguments that are not the same, is that of s greater?
-func (k table) firstGreater(s, t part) bool {
+// aboveAll: is s greater than each of t's arguments?
+func (k table) aboveAll(s part, args []part) int8 {
+	if slices.ContainsFunc(args, func(a part) bool { return k.is(s, a) != more }) {
+		return neither
+	}
+	return more
+}
+
+// askArguments of two parts of one function. Behind the first ones that are not the same there is less to ask: if that of s is greater, s is greater than all of t's as far as that; if not, none of s's as far as that is t, or greater.
+func (k table) askArguments(s, t part) int8 {
 	for i, a := range s.args {
-		if !tree.Same(a.Term, t.args[i].Term) {
-			return k.greater(a, t.args[i])
+		switch k.is(a, t.args[i]) {
+		case more:
+			return k.aboveAll(s, t.args[i+1:])
+		case neither:
+			return k.byArgument(s.args[i+1:], t)
 		}
 	}
-	return false
+	return same
 }

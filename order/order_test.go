@@ -214,6 +214,50 @@ func TestD1SaysWhatTheWordsSay(t *testing.T) {
 	}
 }
 
+// draw: numbers that are the same each time.
+type draw uint64
+
+func (d *draw) n(n int) int {
+	*d = *d*6364136223846793005 + 1442695040888963407
+	return int(uint64(*d) >> 33 % uint64(n))
+}
+
+// drawn: a term of some depth.
+func drawn(d *draw, depth int) api.Term {
+	if depth == 0 || d.n(5) == 0 {
+		return []api.Term{v(1), v(2), f(0), f(1), f(5)}[d.n(5)]
+	}
+	fn := []int{2, 3, 3, 4, 6, 7}[d.n(6)]
+	x := f(fn)
+	for range small().Arity[fn] {
+		x.Args = append(x.Args, drawn(d, depth-1))
+	}
+	return x
+}
+
+// changed: the term with another one somewhere, so that much stays the same.
+func changed(d *draw, x, y api.Term) api.Term {
+	if len(x.Args) == 0 || d.n(3) == 0 {
+		return y
+	}
+	z := f(x.Fn, slices.Clone(x.Args)...)
+	i := d.n(len(z.Args))
+	z.Args[i] = changed(d, z.Args[i], y)
+	return z
+}
+
+func TestD1SaysWhatTheWordsSayOfDrawnTerms(t *testing.T) {
+	d := new(draw)
+	for range 4000 {
+		a, b := drawn(d, 3), drawn(d, 3)
+		for _, c := range []api.Term{b, changed(d, a, drawn(d, 2))} {
+			if n := compared(t, a, c); (n == 1) != plain(a, c) || (n == -1) != plain(c, a) {
+				t.Errorf("%s and %s: %d", write(a), write(c), n)
+			}
+		}
+	}
+}
+
 func TestD3NothingIsGreaterThanItself(t *testing.T) {
 	for _, a := range some() {
 		if compared(t, a, a) != 0 {

@@ -3,10 +3,13 @@ package promises
 
 import (
 	"fmt"
+	"slices"
 	"testing"
 
 	"superpose/api"
 	"superpose/clause"
+	"superpose/infer"
+	"superpose/model"
 	"superpose/order"
 	"superpose/rewrite"
 	"superpose/subst"
@@ -34,6 +37,9 @@ type given struct {
 	rules []api.Rule   // by which t is made something else
 	d     api.Clause   // which c subsumes
 	l     []api.Clause // clauses
+	m     api.Model
+	vars  []int           // things
+	i     []api.Inference // of clauses of l, of each kind one
 }
 
 func signature() api.Signature {
@@ -46,9 +52,12 @@ func right() given {
 	shared := f(2, v(3))
 	literals := api.Clause{{Yes: true, A: f(3, shared, shared), B: shared}, {A: f(0), B: v(2)}, {A: v(601)}}
 	more := api.Clause{{A: f(1), B: f(0)}, {Yes: true, A: shared, B: shared}, {Yes: true, A: shared, B: f(3, shared, shared)}, {B: v(605)}}
-	list := []api.Clause{literals[:2], more[:3], literals[:1], nil, {{A: v(606)}}}
+	two := api.Clause{{Yes: true, A: shared, B: f(0)}, {A: shared, B: v(4)}, {Yes: true, A: v(4), B: shared}, {A: v(609)}}
+	list := []api.Clause{literals[:2], more[:3], literals[:1], two[:3], nil, {{A: v(606)}}}
 	rules := []api.Rule{{From: f(4, v(3), v(1), v(3)), To: f(3, f(3, v(3), v(1)), f(3, v(3), v(1)))}, {From: f(3, shared, v(4)), To: shared}, {From: v(607), To: v(608)}}
 	place := []int{1, 0, 77, 78}
+	inner := []int{0, 79, 80}
+	inferences := []api.Inference{{Kind: api.InferSame, LeftAt: 1}, {Kind: api.InferFactor, Left: 3, RightAt: 2, RightTurned: true}, {Kind: api.InferPut, Left: 3, Right: 2, Place: inner[:1]}, {Kind: 99}}
 	bindings := []api.Binding{{Var: 1, To: shared}, {Var: 3, To: f(3, shared, v(1))}, {Var: 603, To: v(604)}}
 	return given{
 		g:     signature(),
@@ -61,8 +70,23 @@ func right() given {
 		b:     bindings[:2],
 		rules: rules[:2],
 		d:     more[:3],
-		l:     list[:4],
+		l:     list[:5],
+		m:     things(),
+		vars:  []int{0, 1, 1, 76, 75}[:3],
+		i:     inferences[:3],
 	}
+}
+
+// things: a model of two, of which each function makes the first one, or of that the other one.
+func things() api.Model {
+	tables := [][]int{}
+	for _, n := range []int{1, 1, 2, 4, 8} {
+		table := make([]int, n, n+2)
+		table[n-1], table[:n+1][n] = 1, 74
+		tables = append(tables, table)
+	}
+	tables = append(tables, []int{73})
+	return api.Model{Size: 2, Tables: tables[:5]}
 }
 
 // wrong: what none of them takes, of all sorts; terms that hold themselves among them.
@@ -77,9 +101,11 @@ func wrong() []given {
 	for _, x := range []api.Term{loop[1], deep, {Args: wide}, {Var: 1, Args: wide}, {Var: -1 << 63, Fn: 1<<63 - 1}, {Fn: -1 << 63}, {Fn: 1<<63 - 1}, f(2), f(0, f(0)), v(1001)} {
 		both := given{g: signature(), t: x, u: x, p: x, c: api.Clause{{A: x, B: x}}, s: "f9 = f9", b: []api.Binding{{Var: 1, To: x}}, rules: []api.Rule{{From: x, To: x}}}
 		both.d, both.l = both.c, []api.Clause{both.c}
+		both.m, both.vars, both.i = api.Model{Size: -1 << 63}, []int{1<<63 - 1}, []api.Inference{{}, {}, {}}
 		last := right()
+		last.m.Tables[4][7], last.vars[2] = 1<<63-1, -1<<63
 		last.t, last.place, last.c, last.s, last.b[1].To = x, []int{-1 << 63}, api.Clause{{Yes: true, A: v(1), B: x}}, "\xff", x
-		last.rules[1].To, last.l[3] = x, last.c
+		last.rules[1].To, last.l[4] = x, last.c
 		l = append(l, both, last)
 	}
 	for _, g := range []api.Signature{{Arity: []int{4}}, {Arity: []int{-1 << 63}}, {Arity: make([]int, 1<<18)}} {
@@ -98,7 +124,7 @@ type call struct {
 
 func zeroTerm(t api.Term) bool { return t.Var == 0 && t.Fn == 0 && len(t.Args) == 0 }
 
-func calls() []call { return append(firstCalls(), laterCalls()...) }
+func calls() []call { return slices.Concat(firstCalls(), laterCalls(), lastCalls()) }
 
 // firstCalls: those of the layers of terms.
 func firstCalls() []call {
@@ -213,6 +239,38 @@ func laterCalls() []call {
 	}
 }
 
+// lastCalls: those of the layers of models and inferences.
+func lastCalls() []call {
+	list := []call{
+		{"model.Check", func(x given) ([]any, string, bool, api.Errno) {
+			return nil, "", true, model.Check(x.g, x.m)
+		}},
+		{"model.Value", func(x given) ([]any, string, bool, api.Errno) {
+			n, e := model.Value(x.g, x.m, x.t, x.vars)
+			return nil, fmt.Sprint(n), n == 0, e
+		}},
+		{"model.Holds", func(x given) ([]any, string, bool, api.Errno) {
+			is, e := model.Holds(x.g, x.m, x.d)
+			return nil, fmt.Sprint(is), !is, e
+		}},
+		{"infer.All of one", func(x given) ([]any, string, bool, api.Errno) {
+			l, e := infer.All(x.g, x.l, len(x.l)-2, -1)
+			return []any{l}, fmt.Sprint(l), len(l) == 0, e
+		}},
+		{"infer.All of two", func(x given) ([]any, string, bool, api.Errno) {
+			l, e := infer.All(x.g, x.l, len(x.l)-2, 0)
+			return []any{l}, fmt.Sprint(l), len(l) == 0, e
+		}},
+	}
+	for n, name := range []string{"InferSame", "InferFactor", "InferPut"} {
+		list = append(list, call{"infer.Infer by " + name, func(x given) ([]any, string, bool, api.Errno) {
+			c, e := infer.Infer(x.g, x.l, x.i[n])
+			return []any{c}, fmt.Sprint(c), len(c) == 0, e
+		}})
+	}
+	return list
+}
+
 func TestP1EndsWithoutPanicAndZero(t *testing.T) {
 	for i, x := range wrong() {
 		for _, c := range calls() {
@@ -236,6 +294,13 @@ func shown(x given) string {
 	}
 	for _, r := range x.rules[:cap(x.rules)] {
 		s += room(r.From) + room(r.To)
+	}
+	s += fmt.Sprint(x.m.Size, x.vars[:cap(x.vars)])
+	for _, table := range x.m.Tables[:cap(x.m.Tables)] {
+		s += fmt.Sprint(table[:cap(table)])
+	}
+	for _, i := range x.i[:cap(x.i)] {
+		s += fmt.Sprint(i, i.Place[:cap(i.Place)])
 	}
 	for _, c := range append([]api.Clause{x.c, x.d}, x.l[:cap(x.l)]...) {
 		for _, l := range c[:cap(c)] {
@@ -310,12 +375,26 @@ func spots(x any, at func(spot any)) {
 		for _, c := range y {
 			spots(c, at)
 		}
+	case []api.Inference:
+		for i := range y[:cap(y)] {
+			at(&y[:cap(y)][i])
+		}
+		for _, i := range y {
+			spots(i.Place, at)
+		}
+	case [][]int:
+		for i := range y[:cap(y)] {
+			at(&y[:cap(y)][i])
+		}
+		for _, table := range y {
+			spots(table, at)
+		}
 	}
 }
 
 // lists: all that was handed in.
 func (x given) lists() []any {
-	return []any{x.g.Arity, x.place, x.c, x.t, x.u, x.p, x.b, x.rules, x.d, x.l}
+	return []any{x.g.Arity, x.place, x.c, x.t, x.u, x.p, x.b, x.rules, x.d, x.l, x.m.Tables, x.vars, x.i}
 }
 
 func TestP2NewMemory(t *testing.T) {
@@ -355,6 +434,10 @@ func spoil(x any) {
 			*y = api.Rule{From: v(4321), To: v(4321)}
 		case *api.Clause:
 			*y = api.Clause{{A: v(4321)}}
+		case *api.Inference:
+			*y = api.Inference{Kind: 4321}
+		case *[]int:
+			*y = []int{4321}
 		}
 	}
 }
@@ -383,6 +466,15 @@ func TestP2EmptyListsEitherWay(t *testing.T) {
 	room := api.Term{Fn: 1, Args: []api.Term{}}
 	x := given{g: api.Signature{Arity: []int{0, 0}}, t: none, u: none, p: none, s: "$false"}
 	y := given{g: x.g, t: room, u: room, p: room, place: []int{}, c: api.Clause{}, s: "$false", b: []api.Binding{}, rules: []api.Rule{}, d: api.Clause{}, l: []api.Clause{}}
+	x.l = []api.Clause{nil, {{Yes: true, A: none}, {Yes: true, A: none}, {A: none, B: none}}, nil}
+	y.l = []api.Clause{{}, {{Yes: true, A: room}, {Yes: true, A: room}, {A: room, B: room}}, {}}
+	x.i = []api.Inference{{Kind: api.InferSame, Left: 1, LeftAt: 2}, {Kind: api.InferFactor, Left: 1, RightAt: 1}, {Kind: api.InferPut, Left: 1, Right: 1}}
+	for _, i := range x.i {
+		i.Place = []int{}
+		y.i = append(y.i, i)
+	}
+	x.m = api.Model{Size: 1, Tables: [][]int{{0}, {0}}}
+	y.m, y.vars = x.m, []int{}
 	for _, c := range calls() {
 		_, a, _, e := c.do(x)
 		_, b, _, h := c.do(y)

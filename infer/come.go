@@ -1,0 +1,148 @@
+package infer
+
+import (
+	"slices"
+
+	"superpose/api"
+	"superpose/clause"
+	"superpose/order"
+	"superpose/subst"
+	"superpose/term"
+	"superpose/tree"
+)
+
+// sides of a literal: the first one, and the other one.
+func sides(l api.Literal, turned bool) (api.Term, api.Term) {
+	if turned {
+		return l.B, l.A
+	}
+	return l.A, l.B
+}
+
+// fit: are the literals, and the term at Place, as the kind of the inference asks?
+func fit(g api.Signature, left, right api.Clause, i api.Inference) bool {
+	yes := left[i.LeftAt].Yes
+	switch i.Kind {
+	case api.InferSame:
+		return !yes
+	case api.InferFactor:
+		return yes && left[i.RightAt].Yes && i.LeftAt != i.RightAt
+	}
+	u, _ := sides(right[i.RightAt], i.RightTurned)
+	at, _ := term.At(g, u, i.Place)
+	return yes && at.Var == 0
+}
+
+// come: what comes of an inference that fits; right's variables are others than left's.
+func come(g api.Signature, left, right api.Clause, i api.Inference) (api.Clause, api.Errno) {
+	switch i.Kind {
+	case api.InferSame:
+		return same(g, left, i)
+	case api.InferFactor:
+		return factor(g, left, i)
+	}
+	return put(g, left, right, i)
+}
+
+func same(g api.Signature, c api.Clause, i api.Inference) (api.Clause, api.Errno) {
+	by, e := unify(g, c[i.LeftAt].A, c[i.LeftAt].B)
+	if e != api.OK {
+		return nil, e
+	}
+	return applied(g, by, without(c, i.LeftAt))
+}
+
+func factor(g api.Signature, c api.Clause, i api.Inference) (api.Clause, api.Errno) {
+	s, t := sides(c[i.LeftAt], i.LeftTurned)
+	u, v := sides(c[i.RightAt], i.RightTurned)
+	by, e := unify(g, s, u)
+	if e != api.OK {
+		return nil, e
+	}
+	if e := falls(g, by, s, t); e != api.OK {
+		return nil, e
+	}
+	return applied(g, by, append(without(c, i.LeftAt), api.Literal{A: t, B: v}))
+}
+
+func put(g api.Signature, left, right api.Clause, i api.Inference) (api.Clause, api.Errno) {
+	l, r := sides(left[i.LeftAt], i.LeftTurned)
+	u, v := sides(right[i.RightAt], i.RightTurned)
+	at, _ := term.At(g, u, i.Place)
+	by, e := unify(g, at, l)
+	if e != api.OK {
+		return nil, e
+	}
+	if e := falls(g, by, l, r); e != api.OK {
+		return nil, e
+	}
+	if e := falls(g, by, u, v); e != api.OK {
+		return nil, e
+	}
+	// What is put in makes no term less: if this one has too many parts, so it has once they are.
+	u, e = term.Put(g, u, i.Place, r)
+	if e != api.OK {
+		return nil, e
+	}
+	return applied(g, by, slices.Concat(without(left, i.LeftAt), withFirst(right, i, u)))
+}
+
+// unify is Unify, whose no is an error here.
+func unify(g api.Signature, a, b api.Term) ([]api.Binding, api.Errno) {
+	by, ok, e := subst.Unify(g, a, b)
+	if e == api.OK && !ok {
+		e = api.ErrState
+	}
+	return by, e
+}
+
+// falls asks that t, applied, is not greater than s, applied, nor the same.
+func falls(g api.Signature, by []api.Binding, s, t api.Term) api.Errno {
+	s, e := subst.Apply(g, by, s)
+	if e != api.OK {
+		return e
+	}
+	t, e = subst.Apply(g, by, t)
+	if e != api.OK {
+		return e
+	}
+	if rises, _ := order.Greater(g, t, s); rises || tree.Same(s, t) {
+		return api.ErrState
+	}
+	return api.OK
+}
+
+// without a literal: the others, in a list of their own.
+func without(c api.Clause, at int) api.Clause { return slices.Delete(slices.Clone(c), at, at+1) }
+
+// withFirst: the clause, in a list of its own, in which the inference's second literal has another first side.
+func withFirst(c api.Clause, i api.Inference, side api.Term) api.Clause {
+	made := slices.Clone(c)
+	if i.RightTurned {
+		made[i.RightAt].B = side
+	} else {
+		made[i.RightAt].A = side
+	}
+	return made
+}
+
+// applied: the clause with bindings applied, and tidied.
+func applied(g api.Signature, by []api.Binding, c api.Clause) (api.Clause, api.Errno) {
+	// That there are too many literals is the last thing to be told, but it is told as a term of too many parts is: so none need be made.
+	if len(c) > api.MaxLiterals {
+		return nil, api.ErrMany
+	}
+	made := make(api.Clause, len(c))
+	for n, l := range c {
+		a, e := subst.Apply(g, by, l.A)
+		if e != api.OK {
+			return nil, e
+		}
+		b, e := subst.Apply(g, by, l.B)
+		if e != api.OK {
+			return nil, e
+		}
+		made[n] = api.Literal{Yes: l.Yes, A: a, B: b}
+	}
+	return clause.Tidy(g, made)
+}
