@@ -7,26 +7,9 @@ import (
 	"superpose/tree"
 )
 
-// sameSides: have two literals the same sides, turned or not?
-func sameSides(k, l api.Literal) bool {
-	return tree.Same(k.A, l.A) && tree.Same(k.B, l.B) || tree.Same(k.A, l.B) && tree.Same(k.B, l.A)
-}
-
 // denied: is a literal also there as no?
 func denied(c api.Clause, l api.Literal) bool {
-	return slices.ContainsFunc(c, func(k api.Literal) bool { return !k.Yes && sameSides(k, l) })
-}
-
-// needed: the literals without those that can't be so, and those that one ahead is, too.
-func needed(c api.Clause) api.Clause {
-	var left api.Clause
-	for _, l := range c {
-		again := slices.ContainsFunc(left, func(k api.Literal) bool { return k.Yes == l.Yes && sameSides(k, l) })
-		if !again && (l.Yes || !tree.Same(l.A, l.B)) {
-			left = append(left, l)
-		}
-	}
-	return left
+	return slices.ContainsFunc(c, func(k api.Literal) bool { return !k.Yes && tree.SameSides(k, l) })
 }
 
 // numbers that variables have anew.

@@ -132,7 +132,7 @@ func TestH3NoneWithAnError(t *testing.T) {
 
 func TestTriesStopWhenTold(t *testing.T) {
 	c := parse("f2(X1) = f3(f0,f2(X2)) | f0 != f4(X1,f0,X2)")[0]
-	for name, tried := range map[string]iter.Seq[api.Inference]{"ones": ones(c, 0), "puts": puts(c, c, 0, 0)} {
+	for name, tried := range map[string]iter.Seq[api.Inference]{"ones": ones(small(), c, 0), "puts": puts(small(), c, c, 0, 0)} {
 		whole := 0
 		for range tried {
 			whole++
@@ -154,11 +154,15 @@ func TestTriesStopWhenTold(t *testing.T) {
 func TestP1AllEndsSoon(t *testing.T) {
 	by := slices.Repeat(api.Clause{yes(v(1), v(2))}, api.MaxLiterals)
 	great := slices.Repeat(api.Clause{no(tower(119, f(0)), tower(119, f(1)))}, api.MaxLiterals)
-	if all, e := All(small(), []api.Clause{by, great}, 0, 1); len(all) != 0 || e != api.OK {
+	// Each way of each by each, at each place of the side that is greater.
+	if all, e := All(small(), []api.Clause{by, great}, 0, 1); len(all) != 8*2*8*120 || e != api.OK {
 		t.Errorf("%d %d", len(all), e)
 	}
-	// Each way of the one by the other, at each place of the side that is greater.
-	if all, e := All(small(), []api.Clause{by[:1], great}, 0, 1); len(all) != 2*8*120 || e != api.OK {
+	// As many, and each of them has too many literals.
+	for n := range by {
+		by[n] = yes(v(n+1), v(n+2))
+	}
+	if all, e := All(small(), []api.Clause{by, great}, 0, 1); len(all) != 0 || e != api.OK {
 		t.Errorf("%d %d", len(all), e)
 	}
 }
@@ -339,10 +343,26 @@ func plainly(l []api.Clause, i api.Inference) (api.Clause, api.Errno) {
 			return nil, api.ErrMany
 		}
 	}
-	if len(x.comes) > api.MaxLiterals {
+	left := plainLeft(x.comes)
+	if len(left) > api.MaxLiterals {
 		return nil, api.ErrMany
 	}
-	return clause.Tidy(small(), x.comes)
+	return clause.Tidy(small(), left)
+}
+
+// plainLeft reads F2: the literals that stay when a clause, of however many, is tidied.
+func plainLeft(c api.Clause) api.Clause {
+	var left api.Clause
+	seen := map[string]bool{}
+	for _, k := range c {
+		a, b := fmt.Sprint(k.A), fmt.Sprint(k.B)
+		here, turned := fmt.Sprint(k.Yes, a, b), fmt.Sprint(k.Yes, b, a)
+		if (k.Yes || a != b) && !seen[here] && !seen[turned] {
+			left = append(left, k)
+		}
+		seen[here] = true
+	}
+	return left
 }
 
 // draw: numbers that are the same each time.
@@ -422,9 +442,28 @@ func down(x api.Term, here []int, do func(place []int)) {
 	}
 }
 
-func TestH1H2H3SayWhatTheWordsSay(t *testing.T) {
+// long: two clauses, drawn of few terms, of so many literals that what comes of both is too much ahead of its being tidied.
+func long(n int) [][]api.Clause {
+	terms := []api.Term{f(0), f(0), f(1), v(1), f(2, v(1)), f(2, f(0))}
+	d := new(draw)
+	var out [][]api.Clause
+	for range n {
+		l := make([]api.Clause, 2)
+		for i := range l {
+			for range 5 + d.n(4) {
+				l[i] = append(l[i], api.Literal{Yes: d.n(3) == 0, A: terms[d.n(len(terms))], B: terms[d.n(len(terms))]})
+			}
+		}
+		out = append(out, l)
+	}
+	return out
+}
+
+// asPlain asks that Infer and All of lists of two clauses say what the plain reading says, and counts its errors.
+func asPlain(t *testing.T, lists [][]api.Clause) map[api.Errno]int {
+	t.Helper()
 	count := map[api.Errno]int{}
-	for _, l := range append(lists(few(), 300), lists(append(few(), great()...), 20)...) {
+	for _, l := range lists {
 		for _, c := range [][2]int{{0, -1}, {1, -1}, {0, 1}, {1, 0}, {1, 1}} {
 			var good []api.Inference
 			for _, i := range each(l, c[0], c[1]) {
@@ -441,8 +480,15 @@ func TestH1H2H3SayWhatTheWordsSay(t *testing.T) {
 			}
 		}
 	}
-	if count[api.OK] < 1000 || count[api.ErrState] < 1000 || count[api.ErrMany] < 1000 {
-		t.Errorf("too few of a sort: %v", count)
+	return count
+}
+
+func TestH1H2H3SayWhatTheWordsSay(t *testing.T) {
+	for _, drawn := range [][][]api.Clause{append(lists(few(), 300), lists(append(few(), great()...), 20)...), long(90)} {
+		count := asPlain(t, drawn)
+		if count[api.OK] < 1000 || count[api.ErrState] < 1000 || count[api.ErrMany] < 500 {
+			t.Errorf("too few of a sort: %v", count)
+		}
 	}
 }
 

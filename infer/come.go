@@ -20,7 +20,7 @@ func sides(l api.Literal, turned bool) (api.Term, api.Term) {
 }
 
 // fit: are the literals, and the term at Place, as the kind of the inference asks?
-func fit(g api.Signature, left, right api.Clause, i api.Inference) bool {
+func fit(left, right api.Clause, i api.Inference) bool {
 	yes := left[i.LeftAt].Yes
 	switch i.Kind {
 	case api.InferSame:
@@ -29,8 +29,15 @@ func fit(g api.Signature, left, right api.Clause, i api.Inference) bool {
 		return yes && left[i.RightAt].Yes && i.LeftAt != i.RightAt
 	}
 	u, _ := sides(right[i.RightAt], i.RightTurned)
-	at, _ := term.At(g, u, i.Place)
-	return yes && at.Var == 0
+	return yes && part(u, i.Place).Var == 0
+}
+
+// part of a term at a place that there is; At would copy it, for each inference that is tried.
+func part(t api.Term, place []int) api.Term {
+	for _, n := range place {
+		t = t.Args[n]
+	}
+	return t
 }
 
 // come: what comes of an inference that fits; right's variables are others than left's.
@@ -68,8 +75,7 @@ func factor(g api.Signature, c api.Clause, i api.Inference) (api.Clause, api.Err
 func put(g api.Signature, left, right api.Clause, i api.Inference) (api.Clause, api.Errno) {
 	l, r := sides(left[i.LeftAt], i.LeftTurned)
 	u, v := sides(right[i.RightAt], i.RightTurned)
-	at, _ := term.At(g, u, i.Place)
-	by, e := unify(g, at, l)
+	by, e := unify(g, part(u, i.Place), l)
 	if e != api.OK {
 		return nil, e
 	}
@@ -98,11 +104,11 @@ func unify(g api.Signature, a, b api.Term) ([]api.Binding, api.Errno) {
 
 // falls asks that t, applied, is not greater than s, applied, nor the same.
 func falls(g api.Signature, by []api.Binding, s, t api.Term) api.Errno {
-	s, e := subst.Apply(g, by, s)
+	s, e := apply(g, by, s)
 	if e != api.OK {
 		return e
 	}
-	t, e = subst.Apply(g, by, t)
+	t, e = apply(g, by, t)
 	if e != api.OK {
 		return e
 	}
@@ -128,21 +134,34 @@ func withFirst(c api.Clause, i api.Inference, side api.Term) api.Clause {
 
 // applied: the clause with bindings applied, and tidied.
 func applied(g api.Signature, by []api.Binding, c api.Clause) (api.Clause, api.Errno) {
-	// That there are too many literals is the last thing to be told, but it is told as a term of too many parts is: so none need be made.
-	if len(c) > api.MaxLiterals {
-		return nil, api.ErrMany
-	}
 	made := make(api.Clause, len(c))
 	for n, l := range c {
-		a, e := subst.Apply(g, by, l.A)
+		a, e := apply(g, by, l.A)
 		if e != api.OK {
 			return nil, e
 		}
-		b, e := subst.Apply(g, by, l.B)
+		b, e := apply(g, by, l.B)
 		if e != api.OK {
 			return nil, e
 		}
 		made[n] = api.Literal{Yes: l.Yes, A: a, B: b}
 	}
-	return clause.Tidy(g, made)
+	// Tidy takes no more than MaxLiterals, but here it is what it leaves that is counted.
+	return clause.Tidy(g, tree.Needed(made))
+}
+
+// apply is Apply, which is spared where nothing is put in: it checks and copies all that it is handed, and most literals stay as they are.
+func apply(g api.Signature, by []api.Binding, t api.Term) (api.Term, api.Errno) {
+	if !touched(by, t) {
+		return t, api.OK
+	}
+	return subst.Apply(g, by, t)
+}
+
+// touched: does a variable that is bound stand in a term?
+func touched(by []api.Binding, t api.Term) bool {
+	if t.Var != 0 {
+		return slices.ContainsFunc(by, func(b api.Binding) bool { return b.Var == t.Var })
+	}
+	return slices.ContainsFunc(t.Args, func(a api.Term) bool { return touched(by, a) })
 }

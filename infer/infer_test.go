@@ -2,6 +2,7 @@ package infer
 
 import (
 	"slices"
+	"strings"
 	"testing"
 
 	"superpose/api"
@@ -442,43 +443,116 @@ func TestH2TooGreat(t *testing.T) {
 	}
 }
 
-func TestH2TooManyLiterals(t *testing.T) {
-	some := func(n int, first api.Literal, others api.Literal) api.Clause {
-		return append(api.Clause{first}, slices.Repeat(api.Clause{others}, n-1)...)
+// some literals: one, and behind it others, all of them yes, no two of which are the same.
+func some(n int, first api.Literal) api.Clause {
+	c := api.Clause{first}
+	for k := range n - 1 {
+		c = append(c, yes(f(0), tower(k, v(2))))
 	}
+	return c
+}
+
+func TestH2TooManyLiterals(t *testing.T) {
 	by, rises := yes(f(2, v(1)), f(0)), yes(f(2, v(1)), f(3, f(0), f(0)))
 	into, up := no(f(2, f(1)), f(1)), no(f(2, f(1)), f(3, f(1), f(1)))
 	for i, c := range []struct {
 		left, right api.Clause
 		want        api.Errno
 	}{
-		{some(1, by, by), some(8, into, yes(f(0), v(2))), api.OK},
-		{some(8, by, yes(f(0), v(2))), some(1, into, into), api.OK},
-		{some(5, by, yes(f(0), v(2))), some(4, into, yes(f(0), v(2))), api.OK},
-		{some(5, by, yes(f(0), v(2))), some(5, into, yes(f(0), v(2))), api.ErrMany},
-		{some(2, by, yes(f(0), v(2))), some(8, into, yes(f(0), v(2))), api.ErrMany},
-		{some(8, by, yes(f(0), v(2))), some(2, into, yes(f(0), v(2))), api.ErrMany},
-		{some(8, by, yes(f(0), v(2))), some(8, into, yes(f(0), v(2))), api.ErrMany},
+		{some(1, by), some(8, into), api.OK},
+		{some(8, by), some(1, into), api.OK},
+		{some(5, by), some(4, into), api.OK},
+		{some(5, by), some(5, into), api.ErrMany},
+		{some(2, by), some(8, into), api.ErrMany},
+		{some(8, by), some(2, into), api.ErrMany},
+		{some(8, by), some(8, into), api.ErrMany},
 		// Behind all that is not so.
-		{some(8, rises, yes(f(0), v(2))), some(8, into, yes(f(0), v(2))), api.ErrState},
-		{some(8, by, yes(f(0), v(2))), some(8, up, yes(f(0), v(2))), api.ErrState},
-		{some(8, no(f(0), f(0)), yes(f(0), v(2))), some(8, into, yes(f(0), v(2))), api.ErrState},
+		{some(8, rises), some(8, into), api.ErrState},
+		{some(8, by), some(8, up), api.ErrState},
+		{some(8, no(f(0), f(0))), some(8, into), api.ErrState},
 	} {
-		l := []api.Clause{c.left, c.right}
-		d, e := Infer(small(), l, api.Inference{Kind: api.InferPut, Right: 1})
-		if e != c.want || e != api.OK && len(d) != 0 {
-			t.Errorf("%d: %s %d, not %d", i, write(d), e, c.want)
-		}
-		all, h := All(small(), l, 0, 1)
-		there := slices.ContainsFunc(all, func(i api.Inference) bool {
-			return i.LeftAt == 0 && i.RightAt == 0 && !i.LeftTurned && !i.RightTurned && len(i.Place) == 0
-		})
-		if h != api.OK || there != (c.want == api.OK) {
-			t.Errorf("%d: All has it: %v, %d", i, there, h)
-		}
+		firstPut(t, i, []api.Clause{c.left, c.right}, c.want)
 	}
 	// Of one clause there are never too many.
-	eight := some(8, no(f(0), f(0)), by)
-	comesTo(t, []api.Clause{eight}, api.Inference{Kind: api.InferSame}, "f2(X1) = f0", api.OK)
-	comesTo(t, []api.Clause{eight}, api.Inference{Kind: api.InferFactor, LeftAt: 1, RightAt: 7}, "f2(X1) = f0", api.OK)
+	for i, c := range []struct {
+		c    api.Clause
+		i    api.Inference
+		want int
+	}{
+		{some(8, no(f(0), f(0))), api.Inference{Kind: api.InferSame}, 7},
+		{append(some(7, by), yes(f(2, v(3)), f(1))), api.Inference{Kind: api.InferFactor, RightAt: 7}, 8},
+	} {
+		if d, e := Infer(small(), []api.Clause{c.c}, c.i); e != api.OK || len(d) != c.want {
+			t.Errorf("%d: %s %d", i, write(d), e)
+		}
+	}
+}
+
+func TestH2CountsWhatIsTidied(t *testing.T) {
+	seven := "f0 = f1 | f0 = f2(f0) | f0 = f2(f1) | f1 = f2(f0) | f1 = f2(f1) | f2(f0) = f2(f1) | f0 = f3(f0,f0)"
+	six := strings.TrimPrefix(seven, "f0 = f1 | ")
+	eight := "f1 = f3(f0,f0)"
+	for i, c := range []struct {
+		left, right, want string // what stands behind the literals that are taken, and what comes; nothing, if it is too many
+	}{
+		{"f0 = f1", seven, "f0 = f1 | f0 != f1 | " + six},
+		{"f1 = f0", seven, "f1 = f0 | f0 != f1 | " + six},
+		{"f0 != f1", seven, "f0 != f1 | " + seven},
+		{"f2(X3) != f2(X3)", seven, "f0 != f1 | " + seven},
+		// So they are once bindings are applied.
+		{"X1 = f0", seven, "f1 = f0 | f0 != f1 | " + six},
+		{"X1 != f1", seven, "f0 != f1 | " + seven},
+		{"f2(f1) != f2(X1)", seven, "f0 != f1 | " + seven},
+		// Variables are numbered behind it.
+		{"X9 != X9 | X7 = X1", six, "X1 = f1 | f0 != f1 | " + six},
+		{"X9 != X9 | X9 = X7 | f0 != X1", six, "X1 = X2 | f0 != f1 | " + six},
+		// As many as there can be.
+		{seven, seven, seven + " | f0 != f1"},
+		{seven, "f0 = f1 | " + six, seven + " | f0 != f1"},
+		{seven, "f3(f0,f0) = f0 | " + six, seven + " | f0 != f1"},
+		{seven, six + " | " + eight, ""},
+		{seven, strings.Repeat("X1 != X1 | ", 6) + "f3(X2,X3) != f3(X2,X3)", seven + " | f0 != f1"},
+
+		// Nine stay nine.
+		{eight, seven, ""},
+		{"f0 = f0", seven, ""},
+		{"f0 != f2(f0)", seven, ""},
+		{"X1 = f1", seven, ""},
+		{"X2 = f0", "X1 = f0 | " + six, ""},
+		{"X2 != X3", seven, ""},
+		{"f2(X1) != f2(X2)", seven, ""},
+	} {
+		l := parse("f2(X1) = f0 | "+c.left, "f2(f1) != f1 | "+c.right)
+		want := api.OK
+		if c.want == "" {
+			want = api.ErrMany
+		}
+		comesTo(t, l, api.Inference{Kind: api.InferPut, Right: 1}, c.want, want)
+		firstPut(t, i, l, want)
+	}
+	// The literal in which r is put may be one that is not needed, and all may be so.
+	comesTo(t, parse("f2(X1) = f0 | "+eight, "f2(f1) != f0 | "+seven), api.Inference{Kind: api.InferPut, Right: 1}, eight+" | "+seven, api.OK)
+	none := strings.Repeat(" | f0 != f0", 7)
+	comesTo(t, parse("f2(X1) = f0"+none, "f2(f1) != f0"+none), api.Inference{Kind: api.InferPut, Right: 1}, "$false", api.OK)
+	// A term of too many parts is told of, though its literal is not needed.
+	twice := f(3, v(1), v(1))
+	great := api.Clause{yes(f(2, v(1)), f(0)), no(twice, twice)}
+	firstPut(t, 58, []api.Clause{great, append(api.Clause{no(tower(59, f(0)), f(1))}, parse(seven)[0]...)}, api.OK)
+	firstPut(t, 59, []api.Clause{great, append(api.Clause{no(tower(60, f(0)), f(1))}, parse(seven)[0]...)}, api.ErrMany)
+}
+
+// firstPut: InferPut of the first literals of two clauses, nothing turned and Place none, has this error, and All has it or not.
+func firstPut(t *testing.T, n int, l []api.Clause, want api.Errno) {
+	t.Helper()
+	d, e := Infer(small(), l, api.Inference{Kind: api.InferPut, Right: 1})
+	if e != want || e != api.OK && len(d) != 0 {
+		t.Errorf("%d: %s %d, not %d", n, write(d), e, want)
+	}
+	all, h := All(small(), l, 0, 1)
+	there := slices.ContainsFunc(all, func(i api.Inference) bool {
+		return i.LeftAt == 0 && i.RightAt == 0 && !i.LeftTurned && !i.RightTurned && len(i.Place) == 0
+	})
+	if h != api.OK || there != (want == api.OK) {
+		t.Errorf("%d: All has it: %v, %d", n, there, h)
+	}
 }

@@ -1,4 +1,4 @@
-// Package tree: what the layers do alike with terms that they have checked.
+// Package tree: what the layers do alike with terms, and with literals of them, that they have checked.
 package tree
 
 import (
