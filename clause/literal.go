@@ -17,10 +17,9 @@ type numbers map[int]int
 
 // renumbered: the clause in new memory, its variables numbered from 1 on as they first stand in it.
 func renumbered(c api.Clause) api.Clause {
-	made := make(api.Clause, len(c))
+	made := tree.CopyClause(c)
 	anew := numbers{}
-	for i, l := range c {
-		made[i] = api.Literal{Yes: l.Yes, A: tree.Copy(l.A), B: tree.Copy(l.B)}
+	for i := range made {
 		anew.give(&made[i].A)
 		anew.give(&made[i].B)
 	}

@@ -73,6 +73,10 @@ func ways(g api.Signature, l api.Literal, d api.Clause) []bound {
 
 // match a literal's sides with two terms.
 func match(g api.Signature, l api.Literal, a, b api.Term) (bound, bool) {
+	// Match checks all that it is handed, and mostly it is seen without that.
+	if !tree.Covers(l.A, a) || !tree.Covers(l.B, b) {
+		return nil, false
+	}
 	left, ok := matchSide(g, l.A, a)
 	if !ok {
 		return nil, false

@@ -11,14 +11,6 @@ import (
 	"superpose/tree"
 )
 
-// sides of a literal: the first one, and the other one.
-func sides(l api.Literal, turned bool) (api.Term, api.Term) {
-	if turned {
-		return l.B, l.A
-	}
-	return l.A, l.B
-}
-
 // fit: are the literals, and the term at Place, as the kind of the inference asks?
 func fit(left, right api.Clause, i api.Inference) bool {
 	yes := left[i.LeftAt].Yes
@@ -28,16 +20,8 @@ func fit(left, right api.Clause, i api.Inference) bool {
 	case api.InferFactor:
 		return yes && left[i.RightAt].Yes && i.LeftAt != i.RightAt
 	}
-	u, _ := sides(right[i.RightAt], i.RightTurned)
-	return yes && part(u, i.Place).Var == 0
-}
-
-// part of a term at a place that there is; At would copy it, for each inference that is tried.
-func part(t api.Term, place []int) api.Term {
-	for _, n := range place {
-		t = t.Args[n]
-	}
-	return t
+	u, _ := tree.Sides(right[i.RightAt], i.RightTurned)
+	return yes && tree.Part(u, i.Place).Var == 0
 }
 
 // come: what comes of an inference that fits; right's variables are others than left's.
@@ -60,8 +44,8 @@ func same(g api.Signature, c api.Clause, i api.Inference) (api.Clause, api.Errno
 }
 
 func factor(g api.Signature, c api.Clause, i api.Inference) (api.Clause, api.Errno) {
-	s, t := sides(c[i.LeftAt], i.LeftTurned)
-	u, v := sides(c[i.RightAt], i.RightTurned)
+	s, t := tree.Sides(c[i.LeftAt], i.LeftTurned)
+	u, v := tree.Sides(c[i.RightAt], i.RightTurned)
 	by, e := unify(g, s, u)
 	if e != api.OK {
 		return nil, e
@@ -73,9 +57,9 @@ func factor(g api.Signature, c api.Clause, i api.Inference) (api.Clause, api.Err
 }
 
 func put(g api.Signature, left, right api.Clause, i api.Inference) (api.Clause, api.Errno) {
-	l, r := sides(left[i.LeftAt], i.LeftTurned)
-	u, v := sides(right[i.RightAt], i.RightTurned)
-	by, e := unify(g, part(u, i.Place), l)
+	l, r := tree.Sides(left[i.LeftAt], i.LeftTurned)
+	u, v := tree.Sides(right[i.RightAt], i.RightTurned)
+	by, e := unify(g, tree.Part(u, i.Place), l)
 	if e != api.OK {
 		return nil, e
 	}

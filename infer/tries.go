@@ -6,6 +6,7 @@ import (
 
 	"superpose/api"
 	"superpose/order"
+	"superpose/tree"
 )
 
 // those that are good, in the order in which they are tried.
@@ -41,8 +42,8 @@ func puts(g api.Signature, first, second api.Clause, left, right int) iter.Seq[a
 	return func(yield func(api.Inference) bool) {
 		for i := range twos(falling(g, first), falling(g, second)) {
 			i.Kind, i.Left, i.Right = api.InferPut, left, right
-			u, _ := sides(second[i.RightAt], i.RightTurned)
-			for place := range places(u) {
+			u, _ := tree.Sides(second[i.RightAt], i.RightTurned)
+			for place := range tree.Places(u) {
 				i.Place = place
 				if !yield(i) {
 					return
@@ -70,7 +71,7 @@ func either(c api.Clause) []way {
 // falling: of either those whose other side is not greater than the first one. Where it is, it stays so, whatever is put in (D3), and nothing comes: so it need not be tried at each place.
 func falling(g api.Signature, c api.Clause) []way {
 	return slices.DeleteFunc(either(c), func(w way) bool {
-		first, other := sides(c[w.at], w.turned)
+		first, other := tree.Sides(c[w.at], w.turned)
 		rises, _ := order.Greater(g, other, first)
 		return rises
 	})
@@ -87,22 +88,4 @@ func twos(first, second []way) iter.Seq[api.Inference] {
 			}
 		}
 	}
-}
-
-// places of a term, each in new memory, as the parts stand in it, what has others ahead of them.
-func places(t api.Term) iter.Seq[[]int] {
-	return func(yield func([]int) bool) { placesFrom(t, nil, yield) }
-}
-
-// placesFrom goes on, till it is told to stop, with the places of a part that itself stands at here.
-func placesFrom(part api.Term, here []int, yield func([]int) bool) bool {
-	if !yield(slices.Clone(here)) {
-		return false
-	}
-	for n, a := range part.Args {
-		if !placesFrom(a, append(here, n), yield) {
-			return false
-		}
-	}
-	return true
 }

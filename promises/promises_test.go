@@ -1,4 +1,4 @@
-// Package promises: tests of P1 to P3, which hold for all packages alike.
+// Package promises: tests of P1 to P4, which hold for all packages alike, and of what the whole promises.
 package promises
 
 import (
@@ -11,7 +11,9 @@ import (
 	"superpose/infer"
 	"superpose/model"
 	"superpose/order"
+	"superpose/proof"
 	"superpose/rewrite"
+	"superpose/search"
 	"superpose/subst"
 	"superpose/term"
 	"superpose/text"
@@ -40,6 +42,9 @@ type given struct {
 	m     api.Model
 	vars  []int           // things
 	i     []api.Inference // of clauses of l, of each kind one
+	no    []api.Clause    // clauses that are refuted
+	ok    []api.Clause    // clauses that are not
+	a     []api.Answer    // of no, and twice of ok
 }
 
 func signature() api.Signature {
@@ -74,7 +79,42 @@ func right() given {
 		m:     things(),
 		vars:  []int{0, 1, 1, 76, 75}[:3],
 		i:     inferences[:3],
+		no:    refuted(),
+		ok:    saturated(),
+		a:     answers(),
 	}
+}
+
+// refuted: clauses of which the empty clause comes, by more than one inference.
+func refuted() []api.Clause {
+	shared := f(2, v(3))
+	one := api.Clause{{Yes: true, A: f(2, shared), B: v(3)}, {A: v(610)}}
+	two := api.Clause{{A: f(3, f(2, shared), v(3)), B: f(3, v(3), f(0))}, {A: shared, B: shared}, {A: v(611)}}
+	three := api.Clause{{Yes: true, A: f(3, v(3), v(3)), B: f(3, v(3), f(0))}, {A: v(612)}}
+	list := []api.Clause{one[:1], two[:2], three[:1], {{A: v(613)}}}
+	return list[:3]
+}
+
+// saturated: clauses of which something comes, but not without end.
+func saturated() []api.Clause {
+	shared := f(2, v(3))
+	one := api.Clause{{Yes: true, A: shared, B: f(0)}, {A: v(614)}}
+	two := api.Clause{{A: f(3, shared, f(1)), B: shared}, {A: v(615)}}
+	// What is not tidied is in the set as it stands.
+	three := api.Clause{{A: f(2, f(1)), B: f(3, f(1), f(0))}, {A: f(2, f(1)), B: f(3, f(1), f(0))}, {A: v(619)}}
+	list := []api.Clause{one[:1], two[:1], three[:2], {{A: v(616)}}}
+	return list[:3]
+}
+
+// answers of both, and one that is unknown, with room behind their lists.
+func answers() []api.Answer {
+	var list []api.Answer
+	no, _ := search.Search(signature(), refuted(), api.MaxFuel)
+	ok, _ := search.Search(signature(), saturated(), api.MaxFuel)
+	no.Proof = append(no.Proof, api.Inference{Kind: 98}, api.Inference{Kind: 97})[:len(no.Proof)]
+	ok.Set = append(ok.Set, api.Clause{{A: v(617)}}, api.Clause{{A: v(618)}})[:len(ok.Set)]
+	list = append(list, no, ok, api.Answer{Verdict: api.VerdictUnknown}, api.Answer{Verdict: 96})
+	return list[:3]
 }
 
 // things: a model of two, of which each function makes the first one, or of that the other one.
@@ -102,10 +142,11 @@ func wrong() []given {
 		both := given{g: signature(), t: x, u: x, p: x, c: api.Clause{{A: x, B: x}}, s: "f9 = f9", b: []api.Binding{{Var: 1, To: x}}, rules: []api.Rule{{From: x, To: x}}}
 		both.d, both.l = both.c, []api.Clause{both.c}
 		both.m, both.vars, both.i = api.Model{Size: -1 << 63}, []int{1<<63 - 1}, []api.Inference{{}, {}, {}}
+		both.no, both.ok, both.a = both.l, both.l, make([]api.Answer, 3)
 		last := right()
 		last.m.Tables[4][7], last.vars[2] = 1<<63-1, -1<<63
 		last.t, last.place, last.c, last.s, last.b[1].To = x, []int{-1 << 63}, api.Clause{{Yes: true, A: v(1), B: x}}, "\xff", x
-		last.rules[1].To, last.l[4] = x, last.c
+		last.rules[1].To, last.l[4], last.no[2], last.ok[1] = x, last.c, last.c, last.c
 		l = append(l, both, last)
 	}
 	for _, g := range []api.Signature{{Arity: []int{4}}, {Arity: []int{-1 << 63}}, {Arity: make([]int, 1<<18)}} {
@@ -124,7 +165,7 @@ type call struct {
 
 func zeroTerm(t api.Term) bool { return t.Var == 0 && t.Fn == 0 && len(t.Args) == 0 }
 
-func calls() []call { return slices.Concat(firstCalls(), laterCalls(), lastCalls()) }
+func calls() []call { return slices.Concat(firstCalls(), laterCalls(), lastCalls(), searchCalls()) }
 
 // firstCalls: those of the layers of terms.
 func firstCalls() []call {
@@ -271,6 +312,55 @@ func lastCalls() []call {
 	return list
 }
 
+// searchCalls: those of the layers of proofs and searches.
+func searchCalls() []call {
+	list := []call{
+		{"proof.Clauses", func(x given) ([]any, string, bool, api.Errno) {
+			l, e := proof.Clauses(x.g, x.no, x.a[0].Proof)
+			return []any{l}, fmt.Sprint(l), len(l) == 0, e
+		}},
+		{"proof.Clauses of none", func(x given) ([]any, string, bool, api.Errno) {
+			l, e := proof.Clauses(x.g, x.l, nil)
+			return []any{l}, fmt.Sprint(l), len(l) == 0, e
+		}},
+		{"proof.Check", func(x given) ([]any, string, bool, api.Errno) {
+			is, e := proof.Check(x.g, x.no, x.a[0].Proof)
+			return nil, fmt.Sprint(is), !is, e
+		}},
+	}
+	for n, name := range []string{"refuted", "saturated", "unknown"} {
+		of := func(x given) []api.Clause { return [][]api.Clause{x.no, x.ok, x.ok}[n] }
+		fuel := []int{api.MaxFuel, api.MaxFuel, 0}[n]
+		list = append(list, call{"search.Search " + name, func(x given) ([]any, string, bool, api.Errno) {
+			a, e := search.Search(x.g, of(x), fuel)
+			return []any{a.Proof, a.Set}, fmt.Sprint(a.Proof, a.Set), a.Verdict == 0 && len(a.Proof)+len(a.Set) == 0, e
+		}}, call{"search.Is " + name, func(x given) ([]any, string, bool, api.Errno) {
+			is, e := search.Is(x.g, of(x), x.a[n])
+			return nil, fmt.Sprint(is), !is, e
+		}})
+	}
+	return list
+}
+
+// The other tests are of these answers: so they must be more than nothing.
+func TestAnswersAreOfEachSort(t *testing.T) {
+	x := right()
+	if a := x.a[0]; a.Verdict != api.VerdictRefuted || len(a.Proof) < 2 || !slices.ContainsFunc(a.Proof, func(i api.Inference) bool { return len(i.Place) > 0 }) {
+		t.Errorf("%v", a)
+	}
+	if a := x.a[1]; a.Verdict != api.VerdictSaturated || len(a.Set) <= len(x.ok) {
+		t.Errorf("%v", a)
+	}
+	if a, _ := search.Search(x.g, x.ok, 0); a.Verdict != api.VerdictUnknown {
+		t.Errorf("%v", a)
+	}
+	for n, l := range [][]api.Clause{x.no, x.ok, x.ok} {
+		if is, e := search.Is(x.g, l, x.a[n]); !is || e != api.OK {
+			t.Errorf("%d: %v %d", n, is, e)
+		}
+	}
+}
+
 func TestP1EndsWithoutPanicAndZero(t *testing.T) {
 	for i, x := range wrong() {
 		for _, c := range calls() {
@@ -299,10 +389,24 @@ func shown(x given) string {
 	for _, table := range x.m.Tables[:cap(x.m.Tables)] {
 		s += fmt.Sprint(table[:cap(table)])
 	}
-	for _, i := range x.i[:cap(x.i)] {
+	s += roomOfProof(x.i)
+	for _, a := range x.a[:cap(x.a)] {
+		s += fmt.Sprint(a.Verdict) + roomOfProof(a.Proof) + roomOfList(a.Set)
+	}
+	return s + roomOfList([]api.Clause{x.c, x.d}) + roomOfList(x.l) + roomOfList(x.no) + roomOfList(x.ok)
+}
+
+func roomOfProof(p []api.Inference) string {
+	s := ""
+	for _, i := range p[:cap(p)] {
 		s += fmt.Sprint(i, i.Place[:cap(i.Place)])
 	}
-	for _, c := range append([]api.Clause{x.c, x.d}, x.l[:cap(x.l)]...) {
+	return s
+}
+
+func roomOfList(list []api.Clause) string {
+	s := ""
+	for _, c := range list[:cap(list)] {
 		for _, l := range c[:cap(c)] {
 			s += fmt.Sprint(l.Yes) + room(l.A) + room(l.B)
 		}
@@ -389,12 +493,20 @@ func spots(x any, at func(spot any)) {
 		for _, table := range y {
 			spots(table, at)
 		}
+	case []api.Answer:
+		for i := range y[:cap(y)] {
+			at(&y[:cap(y)][i])
+		}
+		for _, a := range y {
+			spots(a.Proof, at)
+			spots(a.Set, at)
+		}
 	}
 }
 
 // lists: all that was handed in.
 func (x given) lists() []any {
-	return []any{x.g.Arity, x.place, x.c, x.t, x.u, x.p, x.b, x.rules, x.d, x.l, x.m.Tables, x.vars, x.i}
+	return []any{x.g.Arity, x.place, x.c, x.t, x.u, x.p, x.b, x.rules, x.d, x.l, x.m.Tables, x.vars, x.i, x.no, x.ok, x.a}
 }
 
 func TestP2NewMemory(t *testing.T) {
@@ -438,6 +550,8 @@ func spoil(x any) {
 			*y = api.Inference{Kind: 4321}
 		case *[]int:
 			*y = []int{4321}
+		case *api.Answer:
+			*y = api.Answer{Verdict: 4321}
 		}
 	}
 }
@@ -475,6 +589,13 @@ func TestP2EmptyListsEitherWay(t *testing.T) {
 	}
 	x.m = api.Model{Size: 1, Tables: [][]int{{0}, {0}}}
 	y.m, y.vars = x.m, []int{}
+	x.a = []api.Answer{{Verdict: api.VerdictRefuted}, {Verdict: api.VerdictSaturated}, {Verdict: api.VerdictUnknown}}
+	for _, a := range x.a {
+		a.Proof, a.Set = []api.Inference{}, []api.Clause{}
+		y.a = append(y.a, a)
+	}
+	x.no, y.no = []api.Clause{nil}, []api.Clause{{}}
+	y.ok = []api.Clause{}
 	for _, c := range calls() {
 		_, a, _, e := c.do(x)
 		_, b, _, h := c.do(y)

@@ -24,3 +24,12 @@ func Copy(t api.Term) api.Term {
 	}
 	return made
 }
+
+// CopyClause is the clause in new memory, as it stands.
+func CopyClause(c api.Clause) api.Clause {
+	made := make(api.Clause, len(c))
+	for i, l := range c {
+		made[i] = api.Literal{Yes: l.Yes, A: Copy(l.A), B: Copy(l.B)}
+	}
+	return made
+}
